@@ -2,9 +2,12 @@ package cluster_test
 
 import (
 	"math"
+	"math/rand"
+	"strings"
 	"testing"
 
 	"pannier/api"
+	"pannier/router"
 )
 
 // ofNodes are the kinds of steps that a node is named for, but calls and restarts.
@@ -150,6 +153,28 @@ func TestCallRefused(t *testing.T) {
 	c := start(t, config(2), 1)
 	for _, x := range []api.Call{{}, {Kind: 5, Cart: "c"}, read(1, ""), read(1, "C"), update(1, "c", "", 1), update(1, "c", "tea", -1), update(1, "c", "tea", api.MaxQty+1), checkout(1, "c", ""), status(1, "c", "T")} {
 		wantRefused(t, "a call that may not be", c, call(1, x), api.ErrCall)
+	}
+}
+
+// TestCallsThatMayBe: just those are taken that the router takes.
+func TestCallsThatMayBe(t *testing.T) {
+	rng := rand.New(rand.NewSource(1))
+	names := []string{"c", "d", "tea", "jam", "t", "-", "7", strings.Repeat("x", api.MaxName), "", "C", strings.Repeat("x", api.MaxName+1)}
+	name := func() string { return names[rng.Intn(len(names))] }
+	c := start(t, config(1), 3)
+	count := 0
+	for i := range 2000 {
+		x := api.Call{Id: i, Kind: rng.Intn(6), Cart: name(), Sku: name(), Token: name(), Qty: []int{-1, 0, 1, api.MaxQty, api.MaxQty + 1}[rng.Intn(5)]}
+		wanted := router.Check(x)
+		if err := c.Do(call(0, x)); err != wanted {
+			t.Errorf("Do(%+v): %d, not %d", x, err, wanted)
+		}
+		if wanted == api.OK {
+			count++
+		}
+	}
+	if len(c.Made()) != count || count < 200 {
+		t.Errorf("%d calls are written down, and %d may be", len(c.Made()), count)
 	}
 }
 
