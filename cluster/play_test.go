@@ -25,9 +25,8 @@ type play struct {
 	script  []api.Step
 	stopped map[[2]int]bool // whose disks may be off
 	clients []*client
-	updates []int // how many may come yet, of each shard
-	writer  bool  // the first node of a shard takes all its updates
 	clears  bool
+	busy    bool // many updates come
 	wild    bool // clocks do not keep the drift
 	calm    bool // elections are rare
 	rarely  int  // one in so many times the power goes
@@ -61,7 +60,7 @@ func newPlay(t *testing.T, seed int64, c api.Config, shards int) *play {
 	p := &play{t: t, seed: seed, rng: rand.New(rand.NewSource(seed)), config: c, shards: shards, stopped: map[[2]int]bool{}, calls: map[int]*asked{}, had: map[[2]int]map[api.Dot]string{}, clears: true, calm: seed%3 > 0, rarely: 1 + int(seed%4)*10, loss: 5}
 	p.c = start(t, c, shards)
 	for shard := range shards {
-		p.logs, p.models, p.updates = append(p.logs, map[int]api.Entry{}), append(p.models, model.New()), append(p.updates, 15)
+		p.logs, p.models = append(p.logs, map[int]api.Entry{}), append(p.models, model.New())
 		for id := range c.Nodes {
 			p.had[[2]int{shard, id}] = map[api.Dot]string{}
 		}
@@ -118,14 +117,6 @@ func (p *play) leader(shard int) int {
 // call has a node be asked, if it is up, and answers the call's id, 0 if it was not taken.
 func (p *play) call(id int, x api.Call) int {
 	shard := router.Shard(x.Cart, p.shards)
-	if x.Kind == api.CallUpdate {
-		if p.writer {
-			id = 0
-		}
-		if p.updates[shard]--; p.updates[shard] < 0 {
-			return 0
-		}
-	}
 	x.Id = len(p.calls) + 1
 	waits := p.c.Node(shard, id).Waits()
 	a := &asked{}
@@ -154,6 +145,9 @@ func (p *play) call(id int, x api.Call) int {
 // anyCall is one of any client, with any token.
 func (p *play) anyCall() {
 	x := api.Call{Kind: []int{1, 1, 1, 2, 3, 3, 4, 4, 4, 4}[p.rng.Intn(10)], Cart: p.cart(), Sku: []string{"tea", "jam"}[p.rng.Intn(2)], Qty: p.rng.Intn(4), Clears: p.clears && p.rng.Intn(4) == 0, Token: fmt.Sprint("t", p.rng.Intn(6))}
+	if p.busy && p.rng.Intn(3) > 0 {
+		x.Kind = api.CallUpdate
+	}
 	id := p.rng.Intn(p.config.Nodes)
 	if at := p.leader(router.Shard(x.Cart, p.shards)); x.Kind >= api.CallCheckout && at >= 0 && p.rng.Intn(4) > 0 {
 		id = at

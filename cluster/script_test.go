@@ -109,15 +109,9 @@ func TestScriptsOfAdditions(t *testing.T) {
 	})
 }
 
-// TestScriptsOfManyUpdates: all of a shard's at one node, so that no piece of them waits for what is behind it.
+// TestScriptsOfManyUpdates: nodes miss more than a piece of them.
 func TestScriptsOfManyUpdates(t *testing.T) {
-	begin := func(p *play) {
-		p.writer = true
-		for shard := range p.updates {
-			p.updates[shard] = 1 << 20
-		}
-	}
-	plays(t, 2000, begin, anyConfig, (*play).goOn)
+	plays(t, 2000, func(p *play) { p.busy = true }, anyConfig, (*play).goOn)
 }
 
 // TestWildScripts: clocks do not keep the drift; all but what is told from leases holds.
@@ -132,15 +126,10 @@ func TestLossyScripts(t *testing.T) {
 
 // TestFullScripts: on disks that are full now and then.
 func TestFullScripts(t *testing.T) {
-	begin := func(p *play) {
-		for shard := range p.updates {
-			p.updates[shard] = 1 << 20
-		}
-	}
 	small := func(rng *rand.Rand) api.Config {
 		c := anyConfig(rng)
 		c.Segment, c.Disk = 100+rng.Intn(1000), 300+rng.Intn(4000)
 		return c
 	}
-	plays(t, 2500, begin, small, func(*play) {})
+	plays(t, 2500, func(p *play) { p.busy = true }, small, func(*play) {})
 }

@@ -28,20 +28,19 @@ func appendText(b []byte, s string) []byte {
 // eventRecords are those of all events, applied ones and such that wait.
 func (n *Node) eventRecords() []string {
 	var records []string
-	for _, e := range slices.Concat(n.inTurn(), n.waitingEvents()) {
+	for _, e := range slices.Concat(n.inTurn(nil, api.MaxDots), n.waitingEvents()) {
 		records = append(records, written(eventLetter, eventBody(e)))
 	}
 	return records
 }
 
-// inTurn answers the applied events, each behind all that it had seen: so none has to wait when they come
-// again, and only so many may.
-func (n *Node) inTurn() []api.Event {
+// inTurn answers the first most of the applied events that done has not, each behind all that it had seen: so
+// none has to wait when they come, and only so many may.
+func (n *Node) inTurn(done []int, most int) []api.Event {
 	var events []api.Event
-	var done []int
 	takeNext := func(origin int) bool {
 		e, is := n.replica.Get(api.Dot{Origin: origin, Seq: vv.Of(done, origin) + 1})
-		if !is || !vv.Below(e.Deps, done) {
+		if !is || len(events) >= most || !vv.Below(e.Deps, done) {
 			return false
 		}
 		done, _ = vv.With(done, origin, e.Dot.Seq)

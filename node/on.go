@@ -1,10 +1,13 @@
 package node
 
 import (
+	"slices"
+
 	"pannier/api"
 	"pannier/codec"
 	"pannier/gossip"
 	"pannier/oplog"
+	"pannier/vv"
 )
 
 // On takes a message for this node.
@@ -105,6 +108,7 @@ func (n *Node) answerDigest(m api.Msg) {
 		}
 		n.send(out)
 	}
+	n.helpOn(m)
 	for slot, e := range n.learner.From(m.Slot) {
 		if slot >= m.Slot+api.Batch {
 			break
@@ -113,6 +117,19 @@ func (n *Node) answerDigest(m api.Msg) {
 	}
 	if m.Slot > n.learner.Prefix() && !asked {
 		n.send(n.digest(m.From))
+	}
+}
+
+// helpOn sends a further piece, if another node can apply nothing of what gossip answers it: that goes by
+// origins, so that all of it may wait for what is behind it, and would be sent again and again. What this piece
+// begins with, that node can apply.
+func (n *Node) helpOn(m api.Msg) {
+	ready := func(e api.Event) bool { return vv.Below(e.Deps, m.Seen) }
+	if slices.ContainsFunc(n.replica.After(m.Seen, api.Batch), ready) {
+		return
+	}
+	if l := n.inTurn(m.Seen, api.Batch); len(l) > 0 {
+		n.send(api.Msg{Kind: api.MsgDelta, From: n.id, To: m.From, Entry: noop(), Events: l})
 	}
 }
 

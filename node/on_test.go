@@ -3,6 +3,7 @@ package node_test
 import (
 	"fmt"
 	"math"
+	"slices"
 	"strings"
 	"testing"
 
@@ -375,6 +376,42 @@ func TestDigests(t *testing.T) {
 	if n.Held() != 0 {
 		t.Error("by itself:", n.Held(), "held back")
 	}
+}
+
+// Where another node can apply nothing of the first piece, a further one goes behind it, of which it can apply all.
+func TestPieceThatWaits(t *testing.T) {
+	n, _ := fresh(t, 3, 0)
+	first := adds(2, 1, 1)
+	n.On(delta(2, 0, first, adds(2, 2, 1, 0, 0, 1)))
+	n.On(chosen(1, 0, 0, noop()))
+	var own []api.Event
+	for i := range 20 {
+		call(t, n, update(i, "c", "tea", 1))
+		own = append(own, adds(0, i+1, 1, i, 0, 2))
+	}
+	flush(t, n)
+	wantAnswered := func(what string, m api.Msg, wanted ...api.Msg) {
+		t.Helper()
+		n.On(m)
+		wantMessages(t, what, n, wanted...)
+	}
+	second := adds(2, 2, 1, 0, 0, 1)
+	helpful := append([]api.Event{first, second}, own[:14]...)
+	wantAnswered("all wait", digest(1, 0, 1), delta(0, 1, own[:16]...), delta(0, 1, helpful...))
+	wantAnswered("all wait for one", digest(1, 0, 1, 0, 0, 1), delta(0, 1, own[:16]...), delta(0, 1, append(helpful[1:], own[14])...))
+	wantAnswered("they are told behind a digest, ahead of entries", digest(1, 0, 0, 0, 1), delta(0, 1, own[:16]...), digest(0, 1, 1, 20, 0, 2), delta(0, 1, helpful...), chosen(0, 1, 0, noop()))
+	wantAnswered("the first one is ready", digest(1, 0, 1, 0, 0, 2), delta(0, 1, own[:16]...))
+	wantAnswered("the last one is ready", digest(1, 0, 1, 5), delta(0, 1, append(slices.Clone(own[5:]), first)...))
+	wantAnswered("no more than a piece is missing", digest(1, 0, 1, 6), delta(0, 1, append(slices.Clone(own[6:]), first, second)...))
+
+	other, _ := fresh(t, 3, 1)
+	for range 2 {
+		n.On(digest(1, 0, 1, other.Applied()...))
+		for _, m := range messages(flush(t, n)) {
+			other.On(m)
+		}
+	}
+	wantSame(t, "all came", other.Events(), n.Events())
 }
 
 // Others' events that may be, and are not here yet, are recorded and taken.

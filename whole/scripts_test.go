@@ -19,11 +19,10 @@ type play struct {
 	rng     *rand.Rand
 	off     map[[2]int]bool // whose disks may be off
 	cut     []int           // of each shard a node that is cut off, or none
-	updates []int           // of each shard how many may come yet
-	writer  bool            // the first node of a shard takes all its updates
 	clears  bool
-	loss    int // of a hundred packets so many are lost, and so many come twice
-	rarely  int // one in so many times the power goes
+	busy    bool // many updates come
+	loss    int  // of a hundred packets so many are lost, and so many come twice
+	rarely  int  // one in so many times the power goes
 	probing bool
 	happened
 }
@@ -52,7 +51,7 @@ func newPlay(t *testing.T, seed int64, config func(rng *rand.Rand) api.Config) *
 	c := config(rng)
 	p := &play{world: newWorld(t, fmt.Sprint("seed ", seed), c, 1+rng.Intn(2)), rng: rng, off: map[[2]int]bool{}, clears: true, loss: 4, rarely: 1 + int(seed%4)*10}
 	for range p.shards {
-		p.cut, p.updates = append(p.cut, -1), append(p.updates, api.Batch-1)
+		p.cut = append(p.cut, -1)
 	}
 	return p
 }
@@ -61,17 +60,12 @@ func newPlay(t *testing.T, seed int64, config func(rng *rand.Rand) api.Config) *
 func (p *play) ask() {
 	x := api.Call{Kind: 1 + p.rng.Intn(4), Cart: carts()[p.rng.Intn(2+p.shards)], Sku: []string{"tea", "jam"}[p.rng.Intn(2)], Qty: p.rng.Intn(4), Clears: p.clears && p.rng.Intn(4) == 0}
 	x.Token = fmt.Sprint("t", p.c.Steps()/200+p.rng.Intn(3))
+	if p.busy && p.rng.Intn(3) > 0 {
+		x.Kind = api.CallUpdate
+	}
 	shard, id := router.Shard(x.Cart, p.shards), p.rng.Intn(p.config.Nodes)
 	if l := p.leaders(shard); x.Kind >= api.CallCheckout && len(l) > 0 && p.rng.Intn(4) > 0 {
 		id = l[p.rng.Intn(len(l))]
-	}
-	if x.Kind == api.CallUpdate {
-		if p.writer {
-			id = 0
-		}
-		if p.updates[shard]--; p.updates[shard] < 0 {
-			return
-		}
 	}
 	p.call(id, x)
 }
@@ -407,20 +401,10 @@ func TestScriptsOfAdditions(t *testing.T) {
 	plays(t, k)
 }
 
-// manyUpdates has a shard take as many as come.
-func (p *play) manyUpdates() {
-	for shard := range p.updates {
-		p.updates[shard] = 1 << 20
-	}
-}
-
-// TestScriptsOfManyUpdates: all of a shard's at one node, so that no piece of them waits for what is behind it.
+// TestScriptsOfManyUpdates: nodes miss more than a piece of them.
 func TestScriptsOfManyUpdates(t *testing.T) {
 	k := usual()
-	k.begin = func(p *play) {
-		p.manyUpdates()
-		p.writer, p.clears = true, p.rng.Intn(2) == 0
-	}
+	k.begin = func(p *play) { p.busy = true }
 	plays(t, k)
 }
 
@@ -441,7 +425,7 @@ func TestScriptsOfFullDisks(t *testing.T) {
 		return c
 	}
 	k.steps = 2000
-	k.begin = (*play).manyUpdates
+	k.begin = func(p *play) { p.busy = true }
 	k.end = func(*play) {}
 	plays(t, k)
 }
